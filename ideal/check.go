@@ -5,8 +5,11 @@ import (
 	"bursary/row"
 )
 
-// isRequest says whether a request may be of a schema that may be; what does not count of its Kind is not looked at.
+// isRequest says whether a request may be of a schema that may be.
 func isRequest(s api.Schema, q api.Request) bool {
+	if others(q) != (api.Request{}) {
+		return false
+	}
 	switch q.Kind {
 	case api.ReqRead, api.ReqScan, api.ReqDelete, api.ReqSet, api.ReqAdd:
 		return isKey(s, q.Key)
@@ -20,6 +23,28 @@ func isRequest(s api.Schema, q api.Request) bool {
 		return true
 	}
 	return false
+}
+
+// others is a request without its Kind, and without what counts of that: what is left must be zero.
+func others(q api.Request) api.Request {
+	switch q.Kind {
+	case api.ReqRead, api.ReqDelete:
+		q.Key = api.Key{}
+	case api.ReqScan:
+		q.Key.Table = 0
+	case api.ReqInsert:
+		q.Key, q.Val, q.Note = api.Key{}, 0, ""
+	case api.ReqNote:
+		q.Key, q.Note = api.Key{}, ""
+	case api.ReqSet, api.ReqAdd:
+		q.Key, q.Val = api.Key{}, 0
+	case api.ReqMove:
+		q.Key, q.To, q.Val = api.Key{}, api.Key{}, 0
+	case api.ReqBack:
+		q.N = 0
+	}
+	q.Kind = 0
+	return q
 }
 
 // isKey says whether a key may be of the schema.

@@ -2,7 +2,9 @@ package ideal_test
 
 import (
 	"fmt"
+	"maps"
 	"math"
+	"slices"
 	"testing"
 
 	"bursary/api"
@@ -30,17 +32,74 @@ func TestCheckRequestOfWhatMayNotBe(t *testing.T) {
 	}
 }
 
-// P15.1: what does not count makes no difference, at whatever value.
+// P15.1: what does not count of a Kind is zero: field by field, with all else as it may be, and beside what may not be.
 func TestCheckRequestOfWhatDoesNotCount(t *testing.T) {
-	for _, litter := range litters() {
-		for _, q := range goodRequests() {
-			expect(t, fmt.Sprint(littered(q, litter)), requestOf(t, three, littered(q, litter)), api.OK)
+	for _, q := range oneOfEach() {
+		expect(t, fmt.Sprint(q), requestOf(t, three, q), api.OK)
+	}
+	for _, q := range slices.Concat(goodRequests(), oneOfEach(), badRequests()) {
+		if _, is := counting()[q.Kind]; !is {
+			continue
 		}
-		for _, q := range badRequests() {
-			if _, is := counting()[q.Kind]; is {
-				expect(t, fmt.Sprint(littered(q, litter)), requestOf(t, three, littered(q, litter)), api.ErrRequest)
+		for _, p := range littered(q) {
+			expect(t, fmt.Sprint(p), requestOf(t, three, p), api.ErrRequest)
+		}
+	}
+}
+
+// P15.1: of each Kind something was laid in each field that does not count, as the table's column says it.
+func TestLittersAreOfEachField(t *testing.T) {
+	for kind, want := range map[int]int{
+		api.ReqRead: 4, api.ReqScan: 5, api.ReqInsert: 2, api.ReqDelete: 4, api.ReqNote: 3, api.ReqSet: 3,
+		api.ReqAdd: 3, api.ReqMove: 2, api.ReqMark: 6, api.ReqBack: 5, api.ReqCommit: 6, api.ReqAbort: 6} {
+		met := map[string]int{}
+		for _, change := range litters(kind) {
+			var q api.Request
+			change(&q)
+			for name, is := range map[string]bool{"Table": q.Key.Table != 0, "Id": q.Key.Id != 0, "To": q.To != api.Key{}, "Val": q.Val != 0, "Note": q.Note != "", "N": q.N != 0} {
+				if is {
+					met[name]++
+				}
 			}
 		}
+		if len(met) != want {
+			t.Fatalf("of the Kind %d something was laid in %v, want %d fields", kind, met, want)
+		}
+	}
+}
+
+// mayBeOfOne says by the table of the chapter's words whether a request may be of the schema of the examples, which has one table.
+func mayBeOfOne(q api.Request) bool {
+	c, is := counting()[q.Kind]
+	bare := (c.table || q.Key.Table == 0) && (c.id || q.Key.Id == 0) && (c.to || q.To == api.Key{}) && (c.val || q.Val == 0) && (c.note || q.Note == "") && (c.n || q.N == 0)
+	switch {
+	case !is || !bare || q.Key.Table != 0 || q.To.Table != 0 || len(q.Note) > 8:
+		return false
+	case q.Kind == api.ReqMove:
+		return q.To.Id != q.Key.Id && q.Val >= 0
+	case q.Kind == api.ReqBack:
+		return q.N >= 1
+	}
+	return true
+}
+
+// P15.1: all requests of few values in each field, held against the words.
+func TestCheckRequestOfFewValues(t *testing.T) {
+	met := map[int]int{}
+	for kind := -1; kind <= 14; kind++ {
+		for i := range 2 * 2 * 2 * 2 * 3 * 3 * 3 {
+			pick := func(n int) int { at := i % n; i /= n; return at }
+			q := api.Request{Kind: kind, Key: key(pick(2), uint16(pick(2))), To: key(pick(2), uint16(pick(2))), Val: int64(pick(3)) - 1, Note: []string{"", "a", long(9)}[pick(3)], N: pick(3) - 1}
+			want := api.ErrRequest
+			if mayBeOfOne(q) {
+				want = api.OK
+				met[kind]++
+			}
+			expect(t, fmt.Sprint(q), requestOf(t, example, q), want)
+		}
+	}
+	if want := map[int]int{1: 2, 2: 1, 3: 12, 4: 2, 5: 4, 6: 6, 7: 6, 8: 4, 9: 1, 10: 1, 11: 1, 12: 1}; !maps.Equal(met, want) {
+		t.Fatalf("how many of each Kind may be: %v, want %v", met, want)
 	}
 }
 

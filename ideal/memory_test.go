@@ -65,7 +65,7 @@ type deed func(x api.Serial) outcome
 func someRequests() []api.Request {
 	k, none := key(0, 2), key(0, 9)
 	return []api.Request{read(k), scan(0), scan(1), insert(none, 5, "n"), remove(k), note(k, "x"), set(k, 1), add(k, 1), move(k, key(0, 1), 1), mark(), back(1), back(2), back(3), commit(), abort(),
-		read(none), insert(k, 5, ""), insert(k, 11, ""), remove(none), add(k, 99), move(k, none, 1), back(9), {}, read(key(3, 0)), back(0)}
+		read(none), insert(k, 5, ""), insert(k, 11, ""), remove(none), add(k, 99), move(k, none, 1), back(9), {}, read(key(3, 0)), back(0), {Kind: api.ReqRead, Key: k, N: 1}, {Kind: api.ReqMark, Note: "8"}}
 }
 
 // deeds are all calls that answer lists.

@@ -190,20 +190,26 @@ func TestAbort(t *testing.T) {
 	}
 }
 
-// P15.4: what does not count of a request makes no difference.
+// P15.4: a request in which what does not count is not zero may not be, whatever it would come to.
 func TestStepOfWhatDoesNotCount(t *testing.T) {
 	x := marked(t, 3)
-	for _, litter := range litters() {
-		left := x
-		left.Marks = append(slices.Clone(x.Marks), x.Rows)
-		checkStep(t, "Mark", x, littered(mark(), litter), left, counts(4))
-		left.Rows, left.Marks = x.Marks[1], slices.Clone(x.Marks[:2])
-		checkStep(t, "Back", x, littered(back(2), litter), left, fine)
-		checkStep(t, "Back to none", x, littered(back(4), litter), x, fails(api.ErrNone))
-		left = api.Serial{Schema: three, Rows: x.Rows, Begun: few(), Over: true}
-		checkStep(t, "Commit", x, littered(commit(), litter), left, fine)
-		left.Rows = few()
-		checkStep(t, "Abort", x, littered(abort(), litter), left, fine)
+	for _, q := range oneOfEach() {
+		goes(t, begun(three, few()...), mark(), q)
+		for _, p := range littered(q) {
+			checkStep(t, "littered", x, p, x, fails(api.ErrRequest))
+		}
+	}
+	x = api.Serial{Schema: three, Rows: few(), Begun: full(), Marks: marksOf(api.MaxMarks)}
+	for _, d := range allDoings() {
+		for _, q := range littered(d.q) {
+			checkStep(t, d.name+", littered", x, q, x, fails(api.ErrRequest))
+		}
+	}
+	x.Rows = full()
+	for _, q := range []api.Request{mark(), back(8), back(9), insert(key(0, 0), 5, "a"), commit(), abort()} {
+		for _, p := range littered(q) {
+			checkStep(t, "ahead of ErrFull and ErrNone", x, p, x, fails(api.ErrRequest))
+		}
 	}
 }
 
@@ -240,6 +246,11 @@ func TestStepOfWhatMayNotBe(t *testing.T) {
 	for name, x := range badSerials() {
 		for _, q := range []api.Request{read(key(0, 1)), mark(), back(1), back(9), commit(), abort(), insert(key(0, 0), 11, ""), {}, {Kind: 13}, back(0), read(key(3, 0)), move(key(0, 1), key(0, 1), 1)} {
 			checkStep(t, name, x, q, x, fails(api.ErrSerial))
+		}
+		for _, q := range oneOfEach() {
+			for _, p := range littered(q) {
+				checkStep(t, name, x, p, x, fails(api.ErrSerial))
+			}
 		}
 	}
 }

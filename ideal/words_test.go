@@ -177,25 +177,28 @@ func badRequests() []api.Request {
 	for _, k := range []api.Key{key(0, 0), key(1, 7), key(2, 65535)} {
 		out = append(out, move(k, k, 0), move(k, k, 3), move(k, key(0, 1), -1), move(k, key(0, 1), math.MinInt64), move(k, k, -1))
 	}
+	for _, q := range oneOfEach() {
+		out = append(out, littered(q)...)
+	}
 	return append(out, back(0), back(-1), back(-8), back(math.MinInt))
 }
 
-// fields says which of a request's fields count: Key, of it Table alone, To, Val, Note, N.
+// fields says which of a request's fields count: Key's Table and Id, To, Val, Note, N.
 type fields struct {
-	key, table, to, val, note, n bool
+	table, id, to, val, note, n bool
 }
 
 // counting says which fields count of each Kind.
 func counting() map[int]fields {
 	return map[int]fields{
-		api.ReqRead:   {key: true},
+		api.ReqRead:   {table: true, id: true},
 		api.ReqScan:   {table: true},
-		api.ReqInsert: {key: true, val: true, note: true},
-		api.ReqDelete: {key: true},
-		api.ReqNote:   {key: true, note: true},
-		api.ReqSet:    {key: true, val: true},
-		api.ReqAdd:    {key: true, val: true},
-		api.ReqMove:   {key: true, to: true, val: true},
+		api.ReqInsert: {table: true, id: true, val: true, note: true},
+		api.ReqDelete: {table: true, id: true},
+		api.ReqNote:   {table: true, id: true, note: true},
+		api.ReqSet:    {table: true, id: true, val: true},
+		api.ReqAdd:    {table: true, id: true, val: true},
+		api.ReqMove:   {table: true, id: true, to: true, val: true},
 		api.ReqMark:   {},
 		api.ReqBack:   {n: true},
 		api.ReqCommit: {},
@@ -203,36 +206,50 @@ func counting() map[int]fields {
 	}
 }
 
-// littered is a request with such values in all fields that do not count.
-func littered(q, litter api.Request) api.Request {
-	c := counting()[q.Kind]
-	switch {
-	case c.table:
-		q.Key.Id = litter.Key.Id
-	case !c.key:
-		q.Key = litter.Key
-	}
-	if !c.to {
-		q.To = litter.To
-	}
-	if !c.val {
-		q.Val = litter.Val
-	}
-	if !c.note {
-		q.Note = litter.Note
-	}
-	if !c.n {
-		q.N = litter.N
-	}
-	return q
+// oneOfEach is a request of each Kind, each of which may be of few rows, and is answered OK, if there is a savepoint.
+func oneOfEach() []api.Request {
+	k := key(0, 2)
+	return []api.Request{read(k), scan(1), insert(key(0, 9), 5, "n"), remove(k), note(k, "x"), set(k, 1), add(k, 1), move(k, key(0, 1), 1), mark(), back(1), commit(), abort()}
 }
 
-// litters are values of all fields: such as would not do where they count, and such as would.
-func litters() []api.Request {
-	return []api.Request{
-		{Key: key(-1, 65535), To: key(3, 9), Val: -1, Note: long(9), N: -1},
-		{Key: key(math.MaxInt, 1), To: key(math.MinInt, 1), Val: math.MinInt64, Note: long(1 << 12), N: math.MinInt},
-		{Key: key(0, 5), To: key(0, 5), Val: math.MaxInt64, Note: "b", N: math.MaxInt},
-		{Key: key(1, 7), To: key(2, 8), Val: 4, Note: "", N: 2},
+// litters are changes of a request in one of the fields that do not count of it each, to another value than zero: such as would do where it counts, such as would not, and such as cut to a byte or to 32 bits would be zero.
+func litters(kind int) []func(q *api.Request) {
+	c := counting()[kind]
+	var out []func(q *api.Request)
+	litter := func(counts bool, change func(q *api.Request)) {
+		if !counts {
+			out = append(out, change)
+		}
 	}
+	for _, table := range append([]int{1, 2}, oddTables...) {
+		litter(c.table, func(q *api.Request) { q.Key.Table = table })
+		litter(c.to, func(q *api.Request) { q.To.Table = table })
+	}
+	for _, id := range []uint16{1, 8, 256, 65535} {
+		litter(c.id, func(q *api.Request) { q.Key.Id = id })
+		litter(c.to, func(q *api.Request) { q.To.Id = id })
+	}
+	for _, val := range []int64{1, -1, 11, 256, 1 << 32, math.MaxInt64, math.MinInt64} {
+		litter(c.val, func(q *api.Request) { q.Val = val })
+	}
+	for _, text := range []string{"8", "\x00", " ", long(8), long(9), long(256)} {
+		litter(c.note, func(q *api.Request) { q.Note = text })
+	}
+	for _, n := range []int{1, -1, 2, 9, 256, 1 << 32, math.MaxInt, math.MinInt} {
+		litter(c.n, func(q *api.Request) { q.N = n })
+	}
+	return out
+}
+
+// littered are requests as this one is, each with something in one field that does not count of it, and one with something in all of these.
+func littered(q api.Request) []api.Request {
+	var out []api.Request
+	all := q
+	for _, change := range litters(q.Kind) {
+		p := q
+		change(&p)
+		change(&all)
+		out = append(out, p)
+	}
+	return append(out, all)
 }

@@ -13,9 +13,9 @@ import (
 	"bursary/ring"
 )
 
-// choices are all keeps of n parts, if they are few; else some of them, that of none and that of all among these.
+// choices are all keeps of n parts, if these are eight at most; else some of them, that of none and that of all among these.
 func choices(n int, chance *rand.Rand) [][]bool {
-	if n <= 6 {
+	if n <= 8 {
 		out := make([][]bool, 1<<n)
 		for x := range out {
 			for i := range n {
@@ -35,10 +35,9 @@ func choices(n int, chance *rand.Rand) [][]bool {
 	return out
 }
 
-// losses lets the power go at each Write and Sync that the call does, with choices of what is kept, and hands on the disk when the power is back; in the end that of a call which was not cut.
+// losses lets the power go at each Write and Sync that the call does, with each choice of what is kept, and hands on the disk when the power is back; in the end that of a call which was not cut.
 func losses(t *testing.T, make func(t *testing.T) *kept, call func(l *log.Log) api.Errno, use func(d *disk.Disk, flushed uint64, whole bool)) {
 	t.Helper()
-	chance := rand.New(rand.NewSource(1))
 	for n := 0; ; n++ {
 		k := make(t)
 		k.disk.Arm(n)
@@ -46,7 +45,10 @@ func losses(t *testing.T, make func(t *testing.T) *kept, call func(l *log.Log) a
 		if e != api.OK {
 			expect(t, "where the power goes", e, api.ErrDead)
 		}
-		for _, keep := range choices(len(k.disk.Pending()), chance) {
+		if n := len(k.disk.Pending()); n > 8 {
+			t.Fatalf("%d are pending: not each choice is tried", n)
+		}
+		for _, keep := range choices(len(k.disk.Pending()), nil) {
 			c := k.disk.Copy()
 			expect(t, "Crash", c.Crash(keep), api.OK)
 			use(c, k.log.Flushed(), e == api.OK)
